@@ -5,6 +5,7 @@ import (
 	"strings"
 
 	"gavelhouse/api"
+	"gavelhouse/four"
 	"gavelhouse/plain"
 )
 
@@ -90,13 +91,13 @@ func Encode(a api.Ask) (string, error) {
 	}
 	b := make([]byte, 0, api.FrameSize)
 	b = append(b, a.Kind, byte(a.Client))
-	b = putHighFirst(b, a.Seq)
+	b = four.AppendHigh(b, uint32(a.Seq))
 	b = append(b, byte(a.Item), byte(a.Side))
-	b = putHighFirst(b, a.Price)
-	b = putHighFirst(b, a.Qty)
-	b = putHighFirst(b, a.ID)
+	b = four.AppendHigh(b, uint32(a.Price))
+	b = four.AppendHigh(b, uint32(a.Qty))
+	b = four.AppendHigh(b, uint32(a.ID))
 	b = append(b, spare...)
-	b = putLowFirst(b, Sum(string(b)))
+	b = four.AppendLow(b, Sum(string(b)))
 	return string(b), nil
 }
 
@@ -105,7 +106,7 @@ func Decode(s string) (api.Ask, error) {
 	if len(s) != api.FrameSize {
 		return api.Ask{}, api.ErrText
 	}
-	if getLowFirst(s[sumAt:]) != Sum(s[:sumAt]) {
+	if four.Low(s[sumAt:]) != Sum(s[:sumAt]) {
 		return api.Ask{}, api.ErrSum
 	}
 	if s[spareAt:sumAt] != spare {
@@ -122,29 +123,13 @@ func fields(s string) api.Ask {
 	return api.Ask{
 		Kind:   s[0],
 		Client: int(s[1]),
-		Seq:    getHighFirst(s[2:6]),
+		Seq:    int(four.High(s[2:6])),
 		Item:   int(s[6]),
 		Side:   int(s[7]),
-		Price:  getHighFirst(s[8:12]),
-		Qty:    getHighFirst(s[12:16]),
-		ID:     getHighFirst(s[16:20]),
+		Price:  int(four.High(s[8:12])),
+		Qty:    int(four.High(s[12:16])),
+		ID:     int(four.High(s[16:20])),
 	}
-}
-
-func putHighFirst(b []byte, x int) []byte {
-	return append(b, byte(x>>24), byte(x>>16), byte(x>>8), byte(x))
-}
-
-func getHighFirst(s string) int {
-	return int(s[0])<<24 | int(s[1])<<16 | int(s[2])<<8 | int(s[3])
-}
-
-func putLowFirst(b []byte, x uint32) []byte {
-	return append(b, byte(x), byte(x>>8), byte(x>>16), byte(x>>24))
-}
-
-func getLowFirst(s string) uint32 {
-	return uint32(s[0]) | uint32(s[1])<<8 | uint32(s[2])<<16 | uint32(s[3])<<24
 }
 
 // Got of a stream.
