@@ -5,6 +5,7 @@ import (
 	"strings"
 
 	"gavelhouse/api"
+	"gavelhouse/bound"
 	"gavelhouse/four"
 	"gavelhouse/plain"
 )
@@ -41,22 +42,20 @@ func isKind(k byte) bool {
 	return false
 }
 
-func within(x, low, high int) bool { return low <= x && x <= high }
-
 func isBounded(a api.Ask) bool {
-	if !within(a.Client, 0, api.Clients-1) || !within(a.Seq, 0, api.MaxID) || !within(a.ID, 0, api.MaxID) {
+	if !bound.Within(a.Client, 0, api.Clients-1) || !bound.Within(a.Seq, 0, api.MaxID) || !bound.Within(a.ID, 0, api.MaxID) {
 		return false
 	}
 	switch a.Kind {
 	case api.Place:
-		return isItem(a.Item) && within(a.Side, api.Buy, api.Sell) && within(a.Price, 1, api.MaxPrice) && within(a.Qty, 1, api.MaxQty)
+		return isItem(a.Item) && bound.Within(a.Side, api.Buy, api.Sell) && bound.Within(a.Price, 1, api.MaxPrice) && bound.Within(a.Qty, 1, api.MaxQty)
 	case api.Cancel:
 		return isItem(a.Item)
 	}
 	return true
 }
 
-func isItem(n int) bool { return within(n, 0, api.Items-1) }
+func isItem(n int) bool { return bound.Within(n, 0, api.Items-1) }
 
 func isShaped(a api.Ask) bool {
 	switch a.Kind {
