@@ -48,7 +48,7 @@ func with(x api.Lot, name string, to int) api.Lot {
 func wantWell(t *testing.T, l []api.Lot) {
 	t.Helper()
 	if err := curve.Check(l); err != nil {
-		t.Errorf("Check of %d lots %.80v = %v", len(l), l, err)
+		t.Errorf("Check of %d lots %v = %v", len(l), l, err)
 	}
 }
 

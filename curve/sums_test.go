@@ -16,7 +16,7 @@ func wantTotals(t *testing.T, l []api.Lot, p int, want totals) {
 	t.Helper()
 	got := totals{curve.Demand(l, p), curve.Supply(l, p), curve.Volume(l, p), curve.Surplus(l, p)}
 	if got != want {
-		t.Errorf("at %d of %.200v: %+v, want %+v", p, l, got, want)
+		t.Errorf("at %d of %v: %+v, want %+v", p, l, got, want)
 	}
 }
 
