@@ -138,3 +138,21 @@ func TestLotsAreOnlyRead(t *testing.T) {
 		t.Errorf("lots are now %v, were %v", all, was)
 	}
 }
+
+func TestBestFirst(t *testing.T) {
+	levels := map[int]string{}
+	for _, side := range []int{api.Buy, api.Sell} {
+		if got := curve.BestFirst(levels, side); len(got) != 0 {
+			t.Errorf("prices of no levels: %v", got)
+		}
+	}
+	for _, p := range []int{7, 1000, 1, 30, 8} {
+		levels[p] = "a level"
+	}
+	if got := curve.BestFirst(levels, api.Buy); !slices.Equal(got, []int{1000, 30, 8, 7, 1}) {
+		t.Errorf("prices of buys: %v", got)
+	}
+	if got := curve.BestFirst(levels, api.Sell); !slices.Equal(got, []int{1, 7, 8, 30, 1000}) {
+		t.Errorf("prices of sells: %v", got)
+	}
+}
