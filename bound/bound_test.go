@@ -22,3 +22,14 @@ func TestWithin(t *testing.T) {
 		}
 	}
 }
+
+func TestApart(t *testing.T) {
+	for _, c := range []struct{ a, b, want int }{
+		{0, 0, 0}, {7, 7, 0}, {-7, -7, 0}, {7, 8, 1}, {1, 1000, 999}, {-3, 4, 7}, {-9, -2, 7},
+		{0, math.MaxInt, math.MaxInt}, {-1, math.MaxInt - 1, math.MaxInt}, {math.MinInt, -1, math.MaxInt}, {math.MinInt, math.MinInt, 0},
+	} {
+		if got, back := bound.Apart(c.a, c.b), bound.Apart(c.b, c.a); got != c.want || back != c.want {
+			t.Errorf("Apart(%d, %d) = %d, the other way %d, want %d", c.a, c.b, got, back, c.want)
+		}
+	}
+}
