@@ -33,3 +33,16 @@ func TestApart(t *testing.T) {
 		}
 	}
 }
+
+func TestIsClient(t *testing.T) {
+	for _, n := range []int{0, 1, 2, 3, 4, 5} {
+		if !bound.IsClient(n) {
+			t.Errorf("%d is no client", n)
+		}
+	}
+	for _, n := range []int{math.MinInt, -6, -1, 6, 7, 256, 1 << 32, math.MaxInt} {
+		if bound.IsClient(n) {
+			t.Errorf("%d is a client", n)
+		}
+	}
+}

@@ -43,7 +43,7 @@ func isKind(k byte) bool {
 }
 
 func isBounded(a api.Ask) bool {
-	if !bound.Within(a.Client, 0, api.Clients-1) || !bound.Within(a.Seq, 0, api.MaxID) || !bound.Within(a.ID, 0, api.MaxID) {
+	if !bound.IsClient(a.Client) || !bound.Within(a.Seq, 0, api.MaxID) || !bound.Within(a.ID, 0, api.MaxID) {
 		return false
 	}
 	switch a.Kind {
