@@ -1,11 +1,12 @@
 package play
 
 import (
-	"strconv"
 	"strings"
 
 	"gavelhouse/api"
+	"gavelhouse/band"
 	"gavelhouse/batch"
+	"gavelhouse/digits"
 	"gavelhouse/purse"
 	"gavelhouse/venue"
 )
@@ -21,35 +22,31 @@ func Sum(v *venue.Venue) string {
 		b.WriteString(itemText(f, item) + "\n")
 	}
 	for client := range api.Clients {
-		b.WriteString(hasText(f.Purse().Of(client)) + "\n")
+		b.WriteString(HasText(f.Purse().Of(client)) + "\n")
 	}
 	return b.String()
 }
 
 // itemText: where its price is, and what rests of it.
 func itemText(f *batch.Floor, item int) string {
-	b := f.Band(item)
-	parts := []string{joined(" ", b.Ref, b.Left)}
+	parts := []string{BandText(f.Band(item))}
 	for _, l := range f.Book(item).Lots() {
-		parts = append(parts, joined(":", l.ID, l.Owner, l.Side, l.Price, l.Qty))
+		parts = append(parts, LotText(l))
 	}
 	return strings.Join(parts, " ")
 }
 
-// hasText: what a client has.
-func hasText(has purse.Has) string {
+// BandText: where an item's price is, and how long it halts.
+func BandText(b band.Band) string { return digits.Join(" ", b.Ref, b.Left) }
+
+// LotText: what rests of an order.
+func LotText(l api.Lot) string { return digits.Join(":", l.ID, l.Owner, l.Side, l.Price, l.Qty) }
+
+// HasText: what a client has.
+func HasText(has purse.Has) string {
 	numbers := []int{has.Cash, has.Held}
 	for item := range api.Items {
 		numbers = append(numbers, has.Stock[item], has.Kept[item])
 	}
-	return joined(" ", numbers...)
-}
-
-// joined numbers, with this between them.
-func joined(between string, numbers ...int) string {
-	parts := make([]string, 0, len(numbers))
-	for _, n := range numbers {
-		parts = append(parts, strconv.Itoa(n))
-	}
-	return strings.Join(parts, between)
+	return digits.Join(" ", numbers...)
 }

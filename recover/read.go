@@ -1,16 +1,16 @@
 package recover
 
 import (
-	"strconv"
 	"strings"
 
 	"gavelhouse/api"
 	"gavelhouse/bound"
+	"gavelhouse/digits"
 	"gavelhouse/wire"
 )
 
 const (
-	digits    = "0123456789abcdef"
+	hex       = "0123456789abcdef"
 	maxDigits = 9 // of a batch; a client has fewer
 )
 
@@ -38,7 +38,7 @@ type parts struct {
 // partsOf a text; false: it is no record.
 func partsOf(s string) (parts, bool) {
 	head, tail, isHead := strings.Cut(s, ":")
-	batch, isNumber := number(head)
+	batch, isNumber := digits.Read(head, maxDigits)
 	clients, frames, hasFrames := strings.Cut(tail, " ")
 	drops, isRising := rising(clients)
 	if !isHead || !isNumber || !isRising {
@@ -58,18 +58,6 @@ func partsOf(s string) (parts, bool) {
 	return r, true
 }
 
-// number in decimal digits, none of them needless; false: it is none.
-func number(s string) (int, bool) {
-	if len(s) > maxDigits {
-		return 0, false
-	}
-	n, err := strconv.Atoi(s)
-	if err != nil || n < 0 || strconv.Itoa(n) != s {
-		return 0, false
-	}
-	return n, true
-}
-
 // rising clients, a comma between; false: they are not so.
 func rising(s string) ([]int, bool) {
 	if s == "" {
@@ -78,7 +66,7 @@ func rising(s string) ([]int, bool) {
 	var clients []int
 	last := -1
 	for part := range strings.SplitSeq(s, ",") {
-		n, is := number(part)
+		n, is := digits.Read(part, maxDigits)
 		if !is || !bound.IsClient(n) || n <= last {
 			return nil, false
 		}
@@ -95,7 +83,7 @@ func bytesOf(s string) (string, bool) {
 	}
 	b := make([]byte, 0, len(s)/2)
 	for i := 0; i < len(s); i += 2 {
-		high, low := strings.IndexByte(digits, s[i]), strings.IndexByte(digits, s[i+1])
+		high, low := strings.IndexByte(hex, s[i]), strings.IndexByte(hex, s[i+1])
 		if high < 0 || low < 0 {
 			return "", false
 		}
